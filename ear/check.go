@@ -4,6 +4,7 @@ import (
 	"slices"
 
 	"escribano/api"
+	"escribano/check"
 )
 
 // book is a book that is looked at.
@@ -14,20 +15,10 @@ func open(b api.EaBook, spellings ...int) (book, api.Errno) {
 	if _, _, e := Check(b); e != api.OK {
 		return book{}, e
 	}
-	if !within(0, len(b.Spellings)-1, spellings...) {
+	if !check.Within(0, len(b.Spellings)-1, spellings...) {
 		return book{}, api.ErrNone
 	}
 	return book{b}, api.OK
-}
-
-// within reports whether all of some numbers are from lo to hi.
-func within(lo, hi int, numbers ...int) bool {
-	for _, n := range numbers {
-		if n < lo || n > hi {
-			return false
-		}
-	}
-	return true
 }
 
 // ascending reports whether each number is above the one before it.
@@ -46,16 +37,6 @@ func isLetter(c rune) bool { return 'a' <= c && c <= 'z' }
 // isDigit reports whether c is from 0 to 9.
 func isDigit(c rune) bool { return '0' <= c && c <= '9' }
 
-// firstError returns the first of some things with an error, and this error; each one is examined with those before it.
-func firstError[T any](things []T, errorOf func(before []T, thing T) api.Errno) (int, api.Errno) {
-	for at, thing := range things {
-		if e := errorOf(things[:at], thing); e != api.OK {
-			return at, e
-		}
-	}
-	return 0, api.OK
-}
-
 // alphabetError returns the error of an alphabet.
 func (k book) alphabetError(before []api.EaAlphabet, a api.EaAlphabet) api.Errno {
 	if !Name(a.Name) {
@@ -64,10 +45,10 @@ func (k book) alphabetError(before []api.EaAlphabet, a api.EaAlphabet) api.Errno
 	if slices.ContainsFunc(before, func(o api.EaAlphabet) bool { return o.Name == a.Name }) {
 		return api.ErrTwice
 	}
-	if !within(1, api.MaxEaLetters, len(a.Letters)) {
+	if !check.Within(1, api.MaxEaLetters, len(a.Letters)) {
 		return api.ErrLong
 	}
-	_, e := firstError(a.Letters, k.letterError)
+	_, e := check.First(a.Letters, k.letterError)
 	return e
 }
 
@@ -82,7 +63,7 @@ func (k book) letterError(before []api.EaLetter, l api.EaLetter) api.Errno {
 	faults := []letterFault{
 		{api.ErrForm, func(_ []api.EaLetter, l api.EaLetter) bool { return !isLetter(rune(l.Letter)) }},
 		{api.ErrTwice, func(before []api.EaLetter, l api.EaLetter) bool { return letterAt(before, l.Letter) >= 0 }},
-		{api.ErrRange, func(_ []api.EaLetter, l api.EaLetter) bool { return !within(0, 1<<k.Sounds-1, l.Sounds) }},
+		{api.ErrRange, func(_ []api.EaLetter, l api.EaLetter) bool { return !check.Within(0, 1<<k.Sounds-1, l.Sounds) }},
 		{api.ErrArg, func(_ []api.EaLetter, l api.EaLetter) bool { return l.Sounds == 0 && !l.Silent }},
 	}
 	for _, f := range faults {
@@ -100,10 +81,10 @@ func letterAt(letters []api.EaLetter, c byte) int {
 
 // spellingError returns the error of a spelling.
 func (k book) spellingError(_ []api.EaSpelling, s api.EaSpelling) api.Errno {
-	if !within(0, len(k.Alphabets)-1, s.Alphabet) {
+	if !check.Within(0, len(k.Alphabets)-1, s.Alphabet) {
 		return api.ErrNone
 	}
-	if !within(1, api.MaxEaText, len(s.Text)) {
+	if !check.Within(1, api.MaxEaText, len(s.Text)) {
 		return api.ErrLong
 	}
 	for at := range len(s.Text) {
@@ -119,7 +100,7 @@ func (k book) heardError(heard []int) api.Errno {
 	if len(heard) > api.MaxEaHeard {
 		return api.ErrLong
 	}
-	if !within(0, k.Sounds-1, heard...) {
+	if !check.Within(0, k.Sounds-1, heard...) {
 		return api.ErrRange
 	}
 	return api.OK

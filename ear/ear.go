@@ -1,11 +1,14 @@
 // Package ear is layer 1: names that were spelt by ear, and what they can sound like.
 package ear
 
-import "escribano/api"
+import (
+	"escribano/api"
+	"escribano/check"
+)
 
 // Name reports whether a string is a name.
 func Name(s string) bool {
-	if !within(1, api.MaxName, len(s)) {
+	if !check.Within(1, api.MaxName, len(s)) {
 		return false
 	}
 	for at, c := range s {
@@ -19,19 +22,19 @@ func Name(s string) bool {
 // Check returns the part, the index in it and the error of a book.
 func Check(b api.EaBook) (part, at int, e api.Errno) {
 	k := book{b}
-	if !within(1, api.MaxEaSounds, k.Sounds) {
+	if !check.Within(1, api.MaxEaSounds, k.Sounds) {
 		return 1, 0, api.ErrRange
 	}
-	if !within(1, api.MaxEaAlphabets, len(k.Alphabets)) {
+	if !check.Within(1, api.MaxEaAlphabets, len(k.Alphabets)) {
 		return 2, 0, api.ErrLong
 	}
-	if at, e := firstError(k.Alphabets, k.alphabetError); e != api.OK {
+	if at, e := check.First(k.Alphabets, k.alphabetError); e != api.OK {
 		return 2, at, e
 	}
 	if len(k.Spellings) > api.MaxEaSpellings {
 		return 3, 0, api.ErrLong
 	}
-	if at, e := firstError(k.Spellings, k.spellingError); e != api.OK {
+	if at, e := check.First(k.Spellings, k.spellingError); e != api.OK {
 		return 3, at, e
 	}
 	return 0, 0, api.OK
@@ -115,7 +118,7 @@ func Spell(b api.EaBook, alphabet int, heard []int) (string, api.Errno) {
 	if e != api.OK {
 		return "", e
 	}
-	if !within(0, len(k.Alphabets)-1, alphabet) {
+	if !check.Within(0, len(k.Alphabets)-1, alphabet) {
 		return "", api.ErrNone
 	}
 	if e := k.heardError(heard); e != api.OK {

@@ -1,0 +1,24 @@
+// Package check has what all layers need to find the errors of what they are given.
+package check
+
+import "escribano/api"
+
+// Within reports whether all of some numbers are from lo to hi.
+func Within(lo, hi int, numbers ...int) bool {
+	for _, n := range numbers {
+		if n < lo || n > hi {
+			return false
+		}
+	}
+	return true
+}
+
+// First returns the first of some things with an error, and this error; each one is examined with those before it.
+func First[T any](things []T, errorOf func(before []T, thing T) api.Errno) (int, api.Errno) {
+	for at, thing := range things {
+		if e := errorOf(things[:at], thing); e != api.OK {
+			return at, e
+		}
+	}
+	return 0, api.OK
+}
