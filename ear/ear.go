@@ -4,6 +4,7 @@ package ear
 import (
 	"escribano/api"
 	"escribano/check"
+	"escribano/sets"
 )
 
 // Name reports whether a string is a name.
@@ -77,7 +78,7 @@ func Alike(b api.EaBook, one, other int) (int, api.Errno) {
 		return 0, api.ErrArg
 	}
 	strings := k.canBe(one, other)
-	_, shared := firstOf(strings, bits(one, other))
+	_, shared := firstOf(strings, sets.Of(one, other))
 	switch {
 	case !shared:
 		return api.Never, api.OK
@@ -96,7 +97,7 @@ func Common(b api.EaBook, spellings []int) ([]int, api.Errno) {
 	if len(spellings) == 0 || !ascending(spellings) {
 		return nil, api.ErrArg
 	}
-	s, shared := firstOf(k.canBe(spellings...), bits(spellings...))
+	s, shared := firstOf(k.canBe(spellings...), sets.Of(spellings...))
 	if !shared {
 		return nil, api.ErrDown
 	}

@@ -6,6 +6,7 @@ import (
 	"slices"
 
 	"escribano/api"
+	"escribano/sets"
 )
 
 // silence stands for no sound, where a letter gives one.
@@ -117,17 +118,11 @@ func firstOf(who map[soundString]int, spellings int) (soundString, bool) {
 // fewestOdd returns the fewest spellings without which all others can be one sound string.
 func (k book) fewestOdd() []int {
 	all := 1<<len(k.Spellings) - 1
-	who := k.canBe(members(all)...)
-	fewest := members(all)
-	for odd := range all {
-		l := members(odd)
-		if len(l) > len(fewest) || len(l) == len(fewest) && slices.Compare(l, fewest) > 0 {
-			continue
-		}
-		if _, shared := firstOf(who, all&^odd); shared {
-			fewest = l
-		}
-	}
+	who := k.canBe(sets.Members(all)...)
+	fewest, _ := sets.Fewest(len(k.Spellings), func(odd int) bool {
+		_, shared := firstOf(who, all&^odd)
+		return shared || odd == all
+	})
 	return fewest
 }
 
@@ -152,24 +147,4 @@ sounds:
 		return "", api.ErrDown
 	}
 	return string(text), api.OK
-}
-
-// bits returns the bits of some indices.
-func bits(indices ...int) int {
-	set := 0
-	for _, i := range indices {
-		set |= 1 << i
-	}
-	return set
-}
-
-// members returns the indices of some bits, ascending.
-func members(set int) []int {
-	var l []int
-	for i := 0; 1<<i <= set; i++ {
-		if set&(1<<i) != 0 {
-			l = append(l, i)
-		}
-	}
-	return l
 }

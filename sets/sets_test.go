@@ -1,0 +1,50 @@
+package sets_test
+
+import (
+	"slices"
+	"testing"
+
+	"escribano/sets"
+)
+
+func TestOfAndMembers(t *testing.T) {
+	for _, c := range []struct {
+		set     int
+		members []int
+	}{{0, nil}, {1, []int{0}}, {2, []int{1}}, {13, []int{0, 2, 3}}, {31, []int{0, 1, 2, 3, 4}}} {
+		if set := sets.Of(c.members...); set != c.set {
+			t.Errorf("Of %v = %d", c.members, set)
+		}
+		if l := sets.Members(c.set); !slices.Equal(l, c.members) {
+			t.Errorf("Members of %d = %v", c.set, l)
+		}
+	}
+	if set := sets.Of(3, 0, 3); set != 9 {
+		t.Errorf("Of = %d", set)
+	}
+}
+
+func TestFewest(t *testing.T) {
+	for i, c := range []struct {
+		many   int
+		enough []int
+		want   []int
+		found  bool
+	}{
+		{0, []int{0}, nil, true},
+		{0, nil, nil, false},
+		{3, nil, nil, false},
+		{3, []int{0, 1, 2, 4, 7}, nil, true},
+		{3, []int{7}, []int{0, 1, 2}, true},
+		{3, []int{7, 6, 4, 2}, []int{1}, true},
+		{4, []int{6, 9}, []int{0, 3}, true},
+		{4, []int{7, 12}, []int{2, 3}, true},
+		{4, []int{10, 12, 6}, []int{1, 2}, true},
+		{2, []int{4}, nil, false},
+	} {
+		l, found := sets.Fewest(c.many, func(set int) bool { return slices.Contains(c.enough, set) })
+		if !slices.Equal(l, c.want) || found != c.found {
+			t.Errorf("%d: Fewest = %v, %t", i, l, found)
+		}
+	}
+}
