@@ -1,0 +1,28 @@
+// Package told has what all layers need to tell what is so over truths.
+package told
+
+import "escribano/api"
+
+// Tally counts truths, and those of them in which something is so.
+type Tally struct{ truths, so int }
+
+// Add counts a truth in which something is so, or is not.
+func (t *Tally) Add(so bool) {
+	t.truths++
+	if so {
+		t.so++
+	}
+}
+
+// How returns whether something is so in all truths, in some or in none, or ErrZero if there is no truth.
+func (t Tally) How() (int, api.Errno) {
+	switch {
+	case t.truths == 0:
+		return 0, api.ErrZero
+	case t.so == 0:
+		return api.Never, api.OK
+	case t.so == t.truths:
+		return api.Must, api.OK
+	}
+	return api.May, api.OK
+}
