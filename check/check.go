@@ -22,3 +22,11 @@ func First[T any](things []T, errorOf func(before []T, thing T) api.Errno) (int,
 	}
 	return 0, api.OK
 }
+
+// List is First, with the error that there are more things than so many ahead of it.
+func List[T any](most int, things []T, errorOf func(before []T, thing T) api.Errno) (int, api.Errno) {
+	if len(things) > most {
+		return 0, api.ErrLong
+	}
+	return First(things, errorOf)
+}

@@ -24,16 +24,18 @@ func TestWithin(t *testing.T) {
 	}
 }
 
-func TestFirst(t *testing.T) {
-	rising := func(before []int, n int) api.Errno {
-		if len(before) > 0 && before[len(before)-1] >= n {
-			return api.ErrArg
-		}
-		if n > 9 {
-			return api.ErrRange
-		}
-		return api.OK
+// rising returns the error of a number that is not above the one before it, or too great.
+func rising(before []int, n int) api.Errno {
+	if len(before) > 0 && before[len(before)-1] >= n {
+		return api.ErrArg
 	}
+	if n > 9 {
+		return api.ErrRange
+	}
+	return api.OK
+}
+
+func TestFirst(t *testing.T) {
 	for _, c := range []struct {
 		things []int
 		at     int
@@ -42,5 +44,20 @@ func TestFirst(t *testing.T) {
 		if at, e := check.First(c.things, rising); at != c.at || e != c.e {
 			t.Errorf("First of %v = %d, %d", c.things, at, e)
 		}
+	}
+}
+
+func TestList(t *testing.T) {
+	for _, c := range []struct {
+		things []int
+		at     int
+		e      api.Errno
+	}{{nil, 0, api.OK}, {[]int{1, 2, 3}, 0, api.OK}, {[]int{1, 2, 2}, 2, api.ErrArg}, {[]int{1, 20, 2}, 1, api.ErrRange}, {[]int{1, 2, 3, 4}, 0, api.ErrLong}, {[]int{1, 1, 20, 4, 3}, 0, api.ErrLong}} {
+		if at, e := check.List(3, c.things, rising); at != c.at || e != c.e {
+			t.Errorf("List of %v = %d, %d", c.things, at, e)
+		}
+	}
+	if at, e := check.List(0, []int(nil), rising); at != 0 || e != api.OK {
+		t.Errorf("List of nothing = %d, %d", at, e)
 	}
 }

@@ -32,10 +32,7 @@ func Check(b api.EaBook) (part, at int, e api.Errno) {
 	if at, e := check.First(k.Alphabets, k.alphabetError); e != api.OK {
 		return 2, at, e
 	}
-	if len(k.Spellings) > api.MaxEaSpellings {
-		return 3, 0, api.ErrLong
-	}
-	if at, e := check.First(k.Spellings, k.spellingError); e != api.OK {
+	if at, e := check.List(api.MaxEaSpellings, k.Spellings, k.spellingError); e != api.OK {
 		return 3, at, e
 	}
 	return 0, 0, api.OK

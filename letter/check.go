@@ -1,11 +1,9 @@
 package letter
 
 import (
-	"slices"
-
 	"escribano/api"
 	"escribano/check"
-	"escribano/ear"
+	"escribano/names"
 )
 
 // shelfError returns the error of a shelf, or of a letter.
@@ -38,16 +36,10 @@ func openFor(s api.LeShelf, at int, words []string) (form, api.Errno) {
 
 // formError returns the error of a form.
 func formError(before []api.LeForm, f api.LeForm) api.Errno {
-	if !ear.Name(f.Name) {
-		return api.ErrForm
+	if e := names.Error(before, f, func(f api.LeForm) string { return f.Name }); e != api.OK {
+		return e
 	}
-	if slices.ContainsFunc(before, func(o api.LeForm) bool { return o.Name == f.Name }) {
-		return api.ErrTwice
-	}
-	if len(f.Parts) > api.MaxLeParts {
-		return api.ErrLong
-	}
-	_, e := check.First(f.Parts, partError)
+	_, e := check.List(api.MaxLeParts, f.Parts, partError)
 	return e
 }
 

@@ -5,7 +5,7 @@ import (
 
 	"escribano/api"
 	"escribano/check"
-	"escribano/ear"
+	"escribano/names"
 )
 
 // open returns the harbour, and its error.
@@ -42,11 +42,8 @@ func isDay(day int) bool { return check.Within(0, api.MaxShDay, day) }
 
 // shipError returns the error of a ship.
 func (k harbour) shipError(before []api.ShShip, s api.ShShip) api.Errno {
-	if !ear.Name(s.Name) {
-		return api.ErrForm
-	}
-	if slices.ContainsFunc(before, func(o api.ShShip) bool { return o.Name == s.Name }) {
-		return api.ErrTwice
+	if e := names.Error(before, s, func(s api.ShShip) string { return s.Name }); e != api.OK {
+		return e
 	}
 	if !check.Within(0, api.MaxShSails, s.Sails) || !check.Within(0, api.MaxShLate, s.Late.Lo, s.Late.Hi) {
 		return api.ErrRange
@@ -54,10 +51,7 @@ func (k harbour) shipError(before []api.ShShip, s api.ShShip) api.Errno {
 	if s.Late.Lo > s.Late.Hi {
 		return api.ErrArg
 	}
-	if len(s.Calls) > api.MaxShCalls {
-		return api.ErrLong
-	}
-	_, e := check.First(s.Calls, k.callError)
+	_, e := check.List(api.MaxShCalls, s.Calls, k.callError)
 	return e
 }
 
