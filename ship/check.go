@@ -6,14 +6,18 @@ import (
 	"escribano/api"
 	"escribano/check"
 	"escribano/names"
+	"escribano/sea"
 )
+
+// harbour is a harbour that is looked at.
+type harbour struct{ sea.Harbour }
 
 // open returns the harbour, and its error.
 func open(h api.ShHarbour) (harbour, api.Errno) {
 	if _, _, e := Check(h); e != api.OK {
 		return harbour{}, e
 	}
-	return look(h), api.OK
+	return harbour{sea.Look(h)}, api.OK
 }
 
 // openLetters is open, with the error that one of some letters is no index behind it.
@@ -35,10 +39,7 @@ func openPort(h api.ShHarbour, port int) (harbour, api.Errno) {
 }
 
 // isPort reports whether there is such a port.
-func (k harbour) isPort(port int) bool { return check.Within(0, k.Ports-1, port) }
-
-// isDay reports whether a day is one that can be asked for.
-func isDay(day int) bool { return check.Within(0, api.MaxShDay, day) }
+func (k harbour) isPort(port int) bool { return sea.IsPort(k.ShHarbour, port) }
 
 // shipError returns the error of a ship.
 func (k harbour) shipError(before []api.ShShip, s api.ShShip) api.Errno {
@@ -83,7 +84,7 @@ func (k harbour) letterError(_ []api.ShLetter, l api.ShLetter) api.Errno {
 	if !check.Within(api.ShNone, len(k.Ships)-1, l.Ship) {
 		return api.ErrNone
 	}
-	if l.Ship != api.ShNone && !takes(k.Ships[l.Ship], l.Port, l.Day) {
+	if l.Ship != api.ShNone && !sea.Takes(k.Ships[l.Ship], l.Port, l.Day) {
 		return api.ErrArg
 	}
 	return api.OK
@@ -91,10 +92,10 @@ func (k harbour) letterError(_ []api.ShLetter, l api.ShLetter) api.Errno {
 
 // reportError returns the error of a report.
 func (k harbour) reportError(_ []api.ShReport, r api.ShReport) api.Errno {
-	if !check.Within(seen, lack, r.Kind) {
+	if !check.Within(api.ShSeen, api.ShLack, r.Kind) {
 		return api.ErrRange
 	}
-	many, ofLetter := len(k.Ships), isOfLetter(r)
+	many, ofLetter := len(k.Ships), sea.IsOfLetter(r)
 	if ofLetter {
 		many = len(k.Letters)
 	}
@@ -104,7 +105,7 @@ func (k harbour) reportError(_ []api.ShReport, r api.ShReport) api.Errno {
 	if ofLetter && r.Port != 0 {
 		return api.ErrArg
 	}
-	if !isDay(r.Day) {
+	if !sea.IsDay(r.Day) {
 		return api.ErrRange
 	}
 	return api.OK

@@ -4,6 +4,7 @@ import (
 	"iter"
 
 	"escribano/api"
+	"escribano/told"
 )
 
 // cards says for each half of which card it is, or that it is forged; the places behind the last half are forged, too.
@@ -108,18 +109,7 @@ func (k drawer) truths() iter.Seq[cards] {
 
 // fair returns the fair truths in their order; there always is one, as all halves can be forged.
 func (k drawer) fair() []cards {
-	var fair []cards
-	fewest := len(k.Halves)
-	for c := range k.truths() {
-		forged := len(c.forged(len(k.Halves)))
-		if forged < fewest {
-			fair, fewest = nil, forged
-		}
-		if forged == fewest {
-			fair = append(fair, c)
-		}
-	}
-	return fair
+	return told.Fewest(k.truths(), func(c cards) int { return len(c.forged(len(k.Halves))) })
 }
 
 // sure returns the cards that halves have in all fair truths; a half of which none is sure counts as forged.

@@ -1,7 +1,11 @@
 // Package told has what all layers need to tell what is so over truths.
 package told
 
-import "escribano/api"
+import (
+	"iter"
+
+	"escribano/api"
+)
 
 // Tally counts truths, and those of them in which something is so.
 type Tally struct{ truths, so int }
@@ -25,4 +29,29 @@ func (t Tally) How() (int, api.Errno) {
 		return api.Must, api.OK
 	}
 	return api.May, api.OK
+}
+
+// How returns whether something is so in all of some truths, in some or in none, or ErrZero if there is no truth.
+func How[T any](truths iter.Seq[T], isSo func(truth T) bool) (int, api.Errno) {
+	var tally Tally
+	for t := range truths {
+		tally.Add(isSo(t))
+	}
+	return tally.How()
+}
+
+// Fewest returns those of some truths that have the fewest of something, in their order.
+func Fewest[T any](truths iter.Seq[T], many func(truth T) int) []T {
+	var least []T
+	fewest := 0
+	for t := range truths {
+		n := many(t)
+		if len(least) == 0 || n < fewest {
+			least, fewest = nil, n
+		}
+		if n == fewest {
+			least = append(least, t)
+		}
+	}
+	return least
 }

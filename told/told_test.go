@@ -1,6 +1,7 @@
 package told_test
 
 import (
+	"slices"
 	"testing"
 
 	"escribano/api"
@@ -28,6 +29,23 @@ func TestTally(t *testing.T) {
 		}
 		if how, e := tally.How(); how != c.how || e != c.e {
 			t.Errorf("%d: How = %d, %d", i, how, e)
+		}
+		if how, e := told.How(slices.Values(c.so), func(so bool) bool { return so }); how != c.how || e != c.e {
+			t.Errorf("%d: How of all = %d, %d", i, how, e)
+		}
+	}
+}
+
+func TestFewest(t *testing.T) {
+	for i, c := range []struct{ truths, want []string }{
+		{nil, nil},
+		{[]string{"ab"}, []string{"ab"}},
+		{[]string{"ab", "c", "de", "f"}, []string{"c", "f"}},
+		{[]string{"c", "ab", "", "f", ""}, []string{"", ""}},
+		{[]string{"b", "a"}, []string{"b", "a"}},
+	} {
+		if l := told.Fewest(slices.Values(c.truths), func(s string) int { return len(s) }); !slices.Equal(l, c.want) {
+			t.Errorf("%d: Fewest = %q", i, l)
 		}
 	}
 }

@@ -1,4 +1,4 @@
-package ship
+package sea
 
 import "escribano/api"
 
@@ -13,23 +13,23 @@ const (
 // saying is what a kind of report says: whether of a letter, and whether it is so if a ship calls so.
 type saying struct {
 	ofLetter bool
-	isSo     func(a arrival, day int) bool
+	isSo     func(a Arrival, day int) bool
 }
 
 // sayings returns what each kind of report says.
 func sayings() []saying {
-	isOn := func(a arrival, day int) bool { return a.isOn(day) }
-	isNotYet := func(a arrival, day int) bool { return !a.isUntil(day) }
+	isOn := func(a Arrival, day int) bool { return a.isOn(day) }
+	isNotYet := func(a Arrival, day int) bool { return !a.IsUntil(day) }
 	return []saying{seen: {false, isOn}, away: {false, isNotYet}, came: {true, isOn}, lack: {true, isNotYet}}
 }
 
-// isOfLetter reports whether a report is of a letter.
-func isOfLetter(r api.ShReport) bool { return sayings()[r.Kind].ofLetter }
+// IsOfLetter reports whether a report, of a kind that there is, is of a letter.
+func IsOfLetter(r api.ShReport) bool { return sayings()[r.Kind].ofLetter }
 
 // isSo reports whether what a report says is so if its ship, or the one by which its letter goes, calls so.
-func (k harbour) isSo(r api.ShReport, calls func(port int) arrival) bool {
+func (k Harbour) isSo(r api.ShReport, calls func(port int) Arrival) bool {
 	port := r.Port
-	if isOfLetter(r) {
+	if IsOfLetter(r) {
 		port = k.Letters[r.Of].Port
 	}
 	return sayings()[r.Kind].isSo(calls(port), r.Day)
