@@ -116,16 +116,3 @@ func (k town) possible(out int) bool {
 	}
 	return false
 }
-
-// overall returns the span from the least to the greatest number that spans of truths have, or ErrZero if there is no truth.
-func (k town) overall(of func(p persons) api.Span) (api.Span, api.Errno) {
-	all, e := api.Span{}, api.ErrZero
-	for p := range k.truths(0) {
-		s := of(p)
-		if e != api.OK {
-			all, e = s, api.OK
-		}
-		all = api.Span{Lo: min(all.Lo, s.Lo), Hi: max(all.Hi, s.Hi)}
-	}
-	return all, e
-}

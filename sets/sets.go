@@ -26,6 +26,17 @@ func Members(set int) []int {
 	return l
 }
 
+// Where returns the indices below many of which something is so, ascending.
+func Where(many int, isSo func(i int) bool) []int {
+	var l []int
+	for i := range many {
+		if isSo(i) {
+			l = append(l, i)
+		}
+	}
+	return l
+}
+
 // Fewest returns the fewest of the indices below many that are enough, of several lists the first one, and whether any are.
 func Fewest(many int, enough func(set int) bool) ([]int, bool) {
 	var fewest []int

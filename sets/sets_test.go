@@ -24,6 +24,18 @@ func TestOfAndMembers(t *testing.T) {
 	}
 }
 
+func TestWhere(t *testing.T) {
+	for i, c := range []struct {
+		many int
+		so   []int
+		want []int
+	}{{0, []int{0}, nil}, {3, nil, nil}, {3, []int{2, 0}, []int{0, 2}}, {3, []int{0, 1, 2, 3}, []int{0, 1, 2}}, {-1, []int{0, -1}, nil}} {
+		if l := sets.Where(c.many, func(i int) bool { return slices.Contains(c.so, i) }); !slices.Equal(l, c.want) {
+			t.Errorf("%d: Where = %v", i, l)
+		}
+	}
+}
+
 func TestFewest(t *testing.T) {
 	for i, c := range []struct {
 		many   int

@@ -4,6 +4,7 @@ import (
 	"iter"
 
 	"escribano/api"
+	"escribano/sets"
 	"escribano/told"
 )
 
@@ -28,13 +29,7 @@ func (c cards) list(halves int) []int {
 
 // forged returns which ones of so many halves are forged.
 func (c cards) forged(halves int) []int {
-	var l []int
-	for half, card := range c[:halves] {
-		if card == api.ToForged {
-			l = append(l, half)
-		}
-	}
-	return l
+	return sets.Where(halves, func(half int) bool { return c[half] == api.ToForged })
 }
 
 // place is where a half is put: beside a card, from a step of it on.
@@ -62,13 +57,7 @@ func look(d api.ToDrawer) drawer {
 
 // steps returns the steps at which a half fits a card, ascending.
 func (k drawer) steps(half, card int) []int {
-	var l []int
-	for step := range k.Steps {
-		if k.fits[place{half, card, step}] {
-			l = append(l, step)
-		}
-	}
-	return l
+	return sets.Where(k.Steps, func(step int) bool { return k.fits[place{half, card, step}] })
 }
 
 // fitsCard reports whether a half fits a card.

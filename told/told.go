@@ -40,6 +40,19 @@ func How[T any](truths iter.Seq[T], isSo func(truth T) bool) (int, api.Errno) {
 	return tally.How()
 }
 
+// Overall returns the span from the least to the greatest number that spans of truths have, or ErrZero if there is no truth.
+func Overall[T any](truths iter.Seq[T], of func(truth T) api.Span) (api.Span, api.Errno) {
+	all, e := api.Span{}, api.ErrZero
+	for t := range truths {
+		s := of(t)
+		if e != api.OK {
+			all, e = s, api.OK
+		}
+		all = api.Span{Lo: min(all.Lo, s.Lo), Hi: max(all.Hi, s.Hi)}
+	}
+	return all, e
+}
+
 // Fewest returns those of some truths that have the fewest of something, in their order.
 func Fewest[T any](truths iter.Seq[T], many func(truth T) int) []T {
 	var least []T

@@ -36,6 +36,33 @@ func TestTally(t *testing.T) {
 	}
 }
 
+func TestOverall(t *testing.T) {
+	for i, c := range []struct {
+		truths []string
+		want   api.Span
+		e      api.Errno
+	}{
+		{nil, api.Span{}, api.ErrZero},
+		{[]string{""}, api.Span{Lo: 0, Hi: 10}, api.OK},
+		{[]string{"abc"}, api.Span{Lo: 3, Hi: 7}, api.OK},
+		{[]string{"abc", "ab"}, api.Span{Lo: 2, Hi: 8}, api.OK},
+		{[]string{"a", "abcd", "ab"}, api.Span{Lo: 1, Hi: 9}, api.OK},
+		{[]string{"abcd", "abc", "abcd"}, api.Span{Lo: 3, Hi: 7}, api.OK},
+	} {
+		s, e := told.Overall(slices.Values(c.truths), func(s string) api.Span { return api.Span{Lo: len(s), Hi: 10 - len(s)} })
+		if s != c.want || e != c.e {
+			t.Errorf("%d: Overall = %v, %d", i, s, e)
+		}
+	}
+	// spans that are all above 0, or all below
+	for _, want := range []api.Span{{Lo: 5, Hi: 9}, {Lo: -9, Hi: -5}} {
+		ends := slices.Values([]int{want.Hi, want.Lo})
+		if s, e := told.Overall(ends, func(n int) api.Span { return api.Span{Lo: n, Hi: n} }); s != want || e != api.OK {
+			t.Errorf("Overall = %v, %d, not %v", s, e, want)
+		}
+	}
+}
+
 func TestFewest(t *testing.T) {
 	for i, c := range []struct{ truths, want []string }{
 		{nil, nil},
