@@ -13,6 +13,17 @@ func Within(lo, hi int, numbers ...int) bool {
 	return true
 }
 
+// Span returns the error of a span, each end of which has to be from lo to hi, and which must not be empty.
+func Span(lo, hi int, s api.Span) api.Errno {
+	if !Within(lo, hi, s.Lo, s.Hi) {
+		return api.ErrRange
+	}
+	if s.Lo > s.Hi {
+		return api.ErrArg
+	}
+	return api.OK
+}
+
 // First returns the first of some things with an error, and this error; each one is examined with those before it.
 func First[T any](things []T, errorOf func(before []T, thing T) api.Errno) (int, api.Errno) {
 	for at, thing := range things {

@@ -24,6 +24,21 @@ func TestWithin(t *testing.T) {
 	}
 }
 
+func TestSpan(t *testing.T) {
+	for _, c := range []struct {
+		s api.Span
+		e api.Errno
+	}{
+		{api.Span{Lo: 2, Hi: 4}, api.OK}, {api.Span{Lo: 2, Hi: 2}, api.OK}, {api.Span{Lo: 4, Hi: 4}, api.OK}, {api.Span{Lo: 3, Hi: 4}, api.OK},
+		{api.Span{Lo: 1, Hi: 4}, api.ErrRange}, {api.Span{Lo: 2, Hi: 5}, api.ErrRange}, {api.Span{Lo: 5, Hi: 2}, api.ErrRange}, {api.Span{Lo: 4, Hi: 1}, api.ErrRange},
+		{api.Span{Lo: 3, Hi: 2}, api.ErrArg}, {api.Span{Lo: 4, Hi: 2}, api.ErrArg}, {api.Span{Lo: math.MinInt, Hi: math.MaxInt}, api.ErrRange}, {api.Span{Lo: math.MaxInt, Hi: math.MinInt}, api.ErrRange},
+	} {
+		if e := check.Span(2, 4, c.s); e != c.e {
+			t.Errorf("Span of %v = %d", c.s, e)
+		}
+	}
+}
+
 // rising returns the error of a number that is not above the one before it, or too great.
 func rising(before []int, n int) api.Errno {
 	if len(before) > 0 && before[len(before)-1] >= n {

@@ -57,13 +57,10 @@ func partError(_ []api.LePart, p api.LePart) api.Errno {
 		}
 		return api.OK
 	}
-	if !check.Within(0, api.MaxLeRoom, p.Room.Lo, p.Room.Hi) || p.Room.Hi == 0 {
+	if p.Room.Hi == 0 {
 		return api.ErrRange
 	}
-	if p.Room.Lo > p.Room.Hi {
-		return api.ErrArg
-	}
-	return api.OK
+	return check.Span(0, api.MaxLeRoom, p.Room)
 }
 
 // fillsError returns the error of what is put into the rooms of a form.

@@ -32,10 +32,10 @@ func (k town) mentionError(before []api.PeMention, m api.PeMention) api.Errno {
 		!check.Within(api.PeNone, len(k.Mentions)-1, m.Parent) {
 		return api.ErrNone
 	}
-	if !check.Within(0, api.MaxPeYear, m.Born.Lo, m.Born.Hi) {
-		return api.ErrRange
+	if e := check.Span(0, api.MaxPeYear, m.Born); e != api.OK {
+		return e
 	}
-	if isEmpty(m.Born) || m.Parent == len(before) {
+	if m.Parent == len(before) {
 		return api.ErrArg
 	}
 	return api.OK

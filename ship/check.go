@@ -46,11 +46,11 @@ func (k harbour) shipError(before []api.ShShip, s api.ShShip) api.Errno {
 	if e := names.Error(before, s, func(s api.ShShip) string { return s.Name }); e != api.OK {
 		return e
 	}
-	if !check.Within(0, api.MaxShSails, s.Sails) || !check.Within(0, api.MaxShLate, s.Late.Lo, s.Late.Hi) {
+	if !check.Within(0, api.MaxShSails, s.Sails) {
 		return api.ErrRange
 	}
-	if s.Late.Lo > s.Late.Hi {
-		return api.ErrArg
+	if e := check.Span(0, api.MaxShLate, s.Late); e != api.OK {
+		return e
 	}
 	_, e := check.List(api.MaxShCalls, s.Calls, k.callError)
 	return e

@@ -53,6 +53,14 @@ func Overall[T any](truths iter.Seq[T], of func(truth T) api.Span) (api.Span, ap
 	return all, e
 }
 
+// Number returns the span from the least to the greatest number that truths have, or ErrZero if there is no truth.
+func Number[T any](truths iter.Seq[T], of func(truth T) int) (api.Span, api.Errno) {
+	return Overall(truths, func(t T) api.Span {
+		n := of(t)
+		return api.Span{Lo: n, Hi: n}
+	})
+}
+
 // Fewest returns those of some truths that have the fewest of something, in their order.
 func Fewest[T any](truths iter.Seq[T], many func(truth T) int) []T {
 	var least []T

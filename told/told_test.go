@@ -63,6 +63,24 @@ func TestOverall(t *testing.T) {
 	}
 }
 
+func TestNumber(t *testing.T) {
+	for i, c := range []struct {
+		truths []string
+		want   api.Span
+		e      api.Errno
+	}{
+		{nil, api.Span{}, api.ErrZero},
+		{[]string{""}, api.Span{}, api.OK},
+		{[]string{"abc"}, api.Span{Lo: 3, Hi: 3}, api.OK},
+		{[]string{"abc", "ab"}, api.Span{Lo: 2, Hi: 3}, api.OK},
+		{[]string{"ab", "abcd", "a", "ab"}, api.Span{Lo: 1, Hi: 4}, api.OK},
+	} {
+		if s, e := told.Number(slices.Values(c.truths), func(s string) int { return len(s) }); s != c.want || e != c.e {
+			t.Errorf("%d: Number = %v, %d", i, s, e)
+		}
+	}
+}
+
 func TestFewest(t *testing.T) {
 	for i, c := range []struct{ truths, want []string }{
 		{nil, nil},
