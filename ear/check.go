@@ -5,6 +5,7 @@ import (
 
 	"escribano/api"
 	"escribano/check"
+	"escribano/sets"
 )
 
 // book is a book that is looked at.
@@ -63,7 +64,7 @@ func (k book) letterError(before []api.EaLetter, l api.EaLetter) api.Errno {
 	faults := []letterFault{
 		{api.ErrForm, func(_ []api.EaLetter, l api.EaLetter) bool { return !isLetter(rune(l.Letter)) }},
 		{api.ErrTwice, func(before []api.EaLetter, l api.EaLetter) bool { return letterAt(before, l.Letter) >= 0 }},
-		{api.ErrRange, func(_ []api.EaLetter, l api.EaLetter) bool { return !check.Within(0, 1<<k.Sounds-1, l.Sounds) }},
+		{api.ErrRange, func(_ []api.EaLetter, l api.EaLetter) bool { return !check.Within(0, sets.All(k.Sounds), l.Sounds) }},
 		{api.ErrArg, func(_ []api.EaLetter, l api.EaLetter) bool { return l.Sounds == 0 && !l.Silent }},
 	}
 	for _, f := range faults {

@@ -117,7 +117,7 @@ func firstOf(who map[soundString]int, spellings int) (soundString, bool) {
 
 // fewestOdd returns the fewest spellings without which all others can be one sound string.
 func (k book) fewestOdd() []int {
-	all := 1<<len(k.Spellings) - 1
+	all := sets.All(len(k.Spellings))
 	who := k.canBe(sets.Members(all)...)
 	fewest, _ := sets.Fewest(len(k.Spellings), func(odd int) bool {
 		_, shared := firstOf(who, all&^odd)

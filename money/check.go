@@ -4,6 +4,7 @@ import (
 	"escribano/api"
 	"escribano/check"
 	"escribano/names"
+	"escribano/sets"
 )
 
 // open returns the list, and its error: that of Check, then that one of some indices is not below many, then that there is no truth.
@@ -48,7 +49,7 @@ func (k list) sumError(before []api.MoSum, s api.MoSum) api.Errno {
 	if e := names.Error(before, s, func(s api.MoSum) string { return s.Name }); e != api.OK {
 		return e
 	}
-	if !check.Within(1, api.MaxMoPence, s.Pence) || !check.Within(1, 1<<len(k.Claimants)-1, s.For) {
+	if !check.Within(1, api.MaxMoPence, s.Pence) || !check.Within(1, sets.All(len(k.Claimants)), s.For) {
 		return api.ErrRange
 	}
 	return api.OK

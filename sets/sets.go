@@ -15,6 +15,9 @@ func Of(indices ...int) int {
 	return set
 }
 
+// All returns the set of all indices below many.
+func All(many int) int { return 1<<many - 1 }
+
 // Members returns the indices of a set, ascending.
 func Members(set int) []int {
 	var l []int

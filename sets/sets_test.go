@@ -24,6 +24,14 @@ func TestOfAndMembers(t *testing.T) {
 	}
 }
 
+func TestAll(t *testing.T) {
+	for many, want := range []int{0, 1, 3, 7, 15} {
+		if set := sets.All(many); set != want {
+			t.Errorf("All of %d = %d", many, set)
+		}
+	}
+}
+
 func TestWhere(t *testing.T) {
 	for i, c := range []struct {
 		many int
