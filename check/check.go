@@ -13,6 +13,16 @@ func Within(lo, hi int, numbers ...int) bool {
 	return true
 }
 
+// Ascending reports whether each of some numbers is above the one before it.
+func Ascending(numbers []int) bool {
+	for at := 1; at < len(numbers); at++ {
+		if numbers[at] <= numbers[at-1] {
+			return false
+		}
+	}
+	return true
+}
+
 // Span returns the error of a span, each end of which has to be from lo to hi, and which must not be empty.
 func Span(lo, hi int, s api.Span) api.Errno {
 	if !Within(lo, hi, s.Lo, s.Hi) {

@@ -24,6 +24,19 @@ func TestWithin(t *testing.T) {
 	}
 }
 
+func TestAscending(t *testing.T) {
+	for _, numbers := range [][]int{nil, {}, {7}, {-3, 0}, {1, 2, 5}, {math.MinInt, 0, math.MaxInt}} {
+		if !check.Ascending(numbers) {
+			t.Errorf("%v are ascending", numbers)
+		}
+	}
+	for _, numbers := range [][]int{{0, 0}, {1, 0}, {1, 2, 2}, {2, 1, 3}, {1, 3, 2}, {math.MaxInt, math.MinInt}} {
+		if check.Ascending(numbers) {
+			t.Errorf("%v are not ascending", numbers)
+		}
+	}
+}
+
 func TestSpan(t *testing.T) {
 	for _, c := range []struct {
 		s api.Span

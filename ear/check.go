@@ -22,16 +22,6 @@ func open(b api.EaBook, spellings ...int) (book, api.Errno) {
 	return book{b}, api.OK
 }
 
-// ascending reports whether each number is above the one before it.
-func ascending(numbers []int) bool {
-	for at := 1; at < len(numbers); at++ {
-		if numbers[at] <= numbers[at-1] {
-			return false
-		}
-	}
-	return true
-}
-
 // isLetter reports whether c is from a to z.
 func isLetter(c rune) bool { return 'a' <= c && c <= 'z' }
 

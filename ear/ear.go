@@ -91,7 +91,7 @@ func Common(b api.EaBook, spellings []int) ([]int, api.Errno) {
 	if e != api.OK {
 		return nil, e
 	}
-	if len(spellings) == 0 || !ascending(spellings) {
+	if len(spellings) == 0 || !check.Ascending(spellings) {
 		return nil, api.ErrArg
 	}
 	s, shared := firstOf(k.canBe(spellings...), sets.Of(spellings...))

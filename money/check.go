@@ -39,11 +39,6 @@ func (k list) isClaimant(claimant int) bool { return check.Within(0, len(k.Claim
 // isSum reports whether there is such a sum.
 func (k list) isSum(sum int) bool { return check.Within(0, len(k.Sums)-1, sum) }
 
-// claimantError returns the error of a claimant.
-func claimantError(before []string, claimant string) api.Errno {
-	return names.Error(before, claimant, func(name string) string { return name })
-}
-
 // sumError returns the error of a sum.
 func (k list) sumError(before []api.MoSum, s api.MoSum) api.Errno {
 	if e := names.Error(before, s, func(s api.MoSum) string { return s.Name }); e != api.OK {

@@ -19,3 +19,8 @@ func Error[T any](before []T, thing T, nameOf func(thing T) string) api.Errno {
 	}
 	return api.OK
 }
+
+// ErrorOf is Error for a name that is all that there is of a thing.
+func ErrorOf(before []string, name string) api.Errno {
+	return Error(before, name, func(name string) string { return name })
+}

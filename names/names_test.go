@@ -37,3 +37,22 @@ func TestError(t *testing.T) {
 		}
 	}
 }
+
+func TestErrorOf(t *testing.T) {
+	for i, c := range []struct {
+		before []string
+		name   string
+		e      api.Errno
+	}{
+		{nil, "rex", api.OK},
+		{[]string{"ben", "rexa"}, "rex", api.OK},
+		{[]string{"rex", "ben"}, "rex", api.ErrTwice},
+		{[]string{"ben", "rex"}, "rex", api.ErrTwice},
+		{nil, "", api.ErrForm},
+		{[]string{"Rex"}, "Rex", api.ErrForm},
+	} {
+		if e := names.ErrorOf(c.before, c.name); e != c.e {
+			t.Errorf("%d: ErrorOf = %d", i, e)
+		}
+	}
+}

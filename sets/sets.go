@@ -2,7 +2,7 @@
 package sets
 
 import (
-	"cmp"
+	"iter"
 	"slices"
 )
 
@@ -40,23 +40,40 @@ func Where(many int, isSo func(i int) bool) []int {
 	return l
 }
 
-// Fewest returns the fewest of the indices below many that are enough, of several lists the first one, and whether any are.
-func Fewest(many int, enough func(set int) bool) ([]int, bool) {
-	var fewest []int
-	found := false
-	for set := range 1 << many {
-		l := Members(set)
-		if found && compare(l, fewest) > 0 {
-			continue
+// Parts yields the lists of some of the indices of a set, the shorter ones first, those that are as long number by number; each one changes when the next one is made.
+func Parts(set int) iter.Seq[[]int] {
+	members := Members(set)
+	return func(yield func(part []int) bool) {
+		var give func(part, left []int, more int) bool
+		give = func(part, left []int, more int) bool {
+			if more == 0 {
+				return yield(part)
+			}
+			for at, i := range left {
+				if !give(append(part, i), left[at+1:], more-1) {
+					return false
+				}
+			}
+			return true
 		}
-		if enough(set) {
-			fewest, found = l, true
+		part := make([]int, 0, len(members))
+		for many := range len(members) + 1 {
+			if !give(part, members, many) {
+				return
+			}
 		}
 	}
-	return fewest, found
 }
 
-// compare is below 0 if a has fewer indices than b, or as many and comes first.
-func compare(a, b []int) int {
-	return cmp.Or(cmp.Compare(len(a), len(b)), slices.Compare(a, b))
+// FewestOf returns the fewest of the indices of a set that are enough, of several lists the first one, and whether any are.
+func FewestOf(set int, enough func(part int) bool) ([]int, bool) {
+	for part := range Parts(set) {
+		if enough(Of(part...)) {
+			return slices.Clone(part), true
+		}
+	}
+	return nil, false
 }
+
+// Fewest is FewestOf for all indices below many.
+func Fewest(many int, enough func(set int) bool) ([]int, bool) { return FewestOf(All(many), enough) }

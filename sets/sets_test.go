@@ -44,6 +44,65 @@ func TestWhere(t *testing.T) {
 	}
 }
 
+func TestParts(t *testing.T) {
+	for _, c := range []struct {
+		set  int
+		want [][]int
+	}{
+		{0, [][]int{{}}},
+		{4, [][]int{{}, {2}}},
+		{9, [][]int{{}, {0}, {3}, {0, 3}}},
+		{14, [][]int{{}, {1}, {2}, {3}, {1, 2}, {1, 3}, {2, 3}, {1, 2, 3}}},
+		{15, [][]int{{}, {0}, {1}, {2}, {3}, {0, 1}, {0, 2}, {0, 3}, {1, 2}, {1, 3}, {2, 3}, {0, 1, 2}, {0, 1, 3}, {0, 2, 3}, {1, 2, 3}, {0, 1, 2, 3}}},
+	} {
+		parts := sets.Parts(c.set)
+		for range 2 { // they can be gone through again
+			var got [][]int
+			for part := range parts {
+				got = append(got, slices.Clone(part))
+			}
+			if !slices.EqualFunc(got, c.want, slices.Equal[[]int]) {
+				t.Errorf("Parts of %d = %v", c.set, got)
+			}
+		}
+		for stop := range c.want {
+			many := 0
+			for range parts {
+				if many++; many > stop {
+					break
+				}
+			}
+			if many != stop+1 {
+				t.Errorf("Parts of %d = %d lists, with a break behind %d", c.set, many, stop+1)
+			}
+		}
+	}
+}
+
+func TestFewestOf(t *testing.T) {
+	for i, c := range []struct {
+		set    int
+		enough []int
+		want   []int
+		found  bool
+	}{
+		{0, []int{0}, nil, true},
+		{0, []int{1}, nil, false},
+		{10, nil, nil, false},
+		{10, []int{1, 4, 5}, nil, false},
+		{10, []int{0, 10}, nil, true},
+		{10, []int{10}, []int{1, 3}, true},
+		{10, []int{10, 1, 8}, []int{3}, true},
+		{26, []int{24, 10, 26}, []int{1, 3}, true},
+		{26, []int{24, 18, 3}, []int{1, 4}, true},
+	} {
+		l, found := sets.FewestOf(c.set, func(part int) bool { return slices.Contains(c.enough, part) })
+		if !slices.Equal(l, c.want) || found != c.found {
+			t.Errorf("%d: FewestOf = %v, %t", i, l, found)
+		}
+	}
+}
+
 func TestFewest(t *testing.T) {
 	for i, c := range []struct {
 		many   int
