@@ -51,3 +51,26 @@ func List[T any](most int, things []T, errorOf func(before []T, thing T) api.Err
 	}
 	return First(things, errorOf)
 }
+
+// Argument is a number that a function is given, the greatest one that it can be, and its error if it is not from 0 to this one.
+type Argument struct {
+	number, most int
+	e            api.Errno
+}
+
+// Index is an argument that has to be an index of so many things.
+func Index(number, many int) Argument { return Argument{number, many - 1, api.ErrNone} }
+
+// Number is an argument that has to be from 0 to some number.
+func Number(number, most int) Argument { return Argument{number, most, api.ErrRange} }
+
+// Arguments returns the error of the first argument with one.
+func Arguments(arguments ...Argument) api.Errno {
+	_, e := First(arguments, func(_ []Argument, a Argument) api.Errno {
+		if !Within(0, a.most, a.number) {
+			return a.e
+		}
+		return api.OK
+	})
+	return e
+}

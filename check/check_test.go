@@ -89,3 +89,26 @@ func TestList(t *testing.T) {
 		t.Errorf("List of nothing = %d, %d", at, e)
 	}
 }
+
+func TestArguments(t *testing.T) {
+	for i, c := range []struct {
+		arguments []check.Argument
+		e         api.Errno
+	}{
+		{nil, api.OK},
+		{[]check.Argument{check.Index(0, 1), check.Index(2, 3), check.Number(0, 0), check.Number(3, 3)}, api.OK},
+		{[]check.Argument{check.Index(0, 0)}, api.ErrNone},
+		{[]check.Argument{check.Index(3, 3)}, api.ErrNone},
+		{[]check.Argument{check.Index(-1, 3)}, api.ErrNone},
+		{[]check.Argument{check.Index(math.MaxInt, 3)}, api.ErrNone},
+		{[]check.Argument{check.Number(4, 3)}, api.ErrRange},
+		{[]check.Argument{check.Number(-1, 3)}, api.ErrRange},
+		{[]check.Argument{check.Number(math.MinInt, 3)}, api.ErrRange},
+		{[]check.Argument{check.Index(2, 3), check.Number(4, 3), check.Index(3, 3)}, api.ErrRange},
+		{[]check.Argument{check.Number(2, 3), check.Index(3, 3), check.Number(4, 3)}, api.ErrNone},
+	} {
+		if e := check.Arguments(c.arguments...); e != c.e {
+			t.Errorf("%d: Arguments = %d", i, e)
+		}
+	}
+}

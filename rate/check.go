@@ -6,35 +6,15 @@ import (
 	"escribano/names"
 )
 
-// argument is a number that a function is given, the greatest one that it can be, and its error if it is not from 0 to this one.
-type argument struct {
-	number, most int
-	e            api.Errno
-}
-
-// index is an argument that has to be an index of so many things.
-func index(number, many int) argument { return argument{number, many - 1, api.ErrNone} }
-
-// pence is an argument that has to be pence, so many at most.
-func pence(number, most int) argument { return argument{number, most, api.ErrRange} }
-
 // open returns the house, and its error: that of Check, then that of the first argument with one.
-func open(h api.RaHouse, arguments ...argument) (house, api.Errno) {
+func open(h api.RaHouse, arguments ...check.Argument) (house, api.Errno) {
 	if _, _, e := Check(h); e != api.OK {
 		return house{}, e
 	}
-	if _, e := check.First(arguments, argumentError); e != api.OK {
+	if e := check.Arguments(arguments...); e != api.OK {
 		return house{}, e
 	}
 	return look(h), api.OK
-}
-
-// argumentError returns the error of an argument.
-func argumentError(_ []argument, a argument) api.Errno {
-	if !check.Within(0, a.most, a.number) {
-		return a.e
-	}
-	return api.OK
 }
 
 // rateError returns the error of the rate of a day.
